@@ -1,0 +1,1 @@
+"""An abacus: methods, run on numbers or worked on beads by a book."""
