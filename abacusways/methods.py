@@ -2,6 +2,7 @@
 
 from abacusways.faults import Fault
 from abacusways.grammar import count_lines
+from abacusways.texts import DIVIDE, PLUS, ROOT, TIMES
 
 MOST_BYTES = 4096
 
@@ -14,3 +15,11 @@ def method(text):
         return [count_lines(text)]
     except Fault as fault:
         return [-5, fault.rule, fault.place]
+
+
+def school(k):
+    """0 and the text of the school's method k, if there is one; else the refusal."""
+    texts = [PLUS, TIMES, DIVIDE, ROOT]
+    if k >= len(texts):
+        return [-1]
+    return [0] + [ord(sign) for sign in texts[k]]
