@@ -1,20 +1,25 @@
 """The calls that others make."""
 
-from abacusways.faults import Fault
-from abacusways.grammar import count_lines
+from abacusways.faults import LargeValue, LongText, NotAllowed, Refusal
+from abacusways.frames import NumberFrame
+from abacusways.grammar import read_lines
+from abacusways.makes import find_span, read_make
+from abacusways.runs import Run
 from abacusways.texts import DIVIDE, PLUS, ROOT, TIMES
 
 MOST_BYTES = 4096
+MARK_COUNT = 8
+MOST_MARK = 63
+MOST_STEPS = 16777216
 
 
 def method(text):
     """How many lines the text has, if it is a method; else the refusal."""
-    if len(text) > MOST_BYTES:
-        return [-6]
     try:
-        return [count_lines(text)]
-    except Fault as fault:
-        return [-5, fault.rule, fault.place]
+        check_size(text)
+        return [len(read_lines(text))]
+    except Refusal as refusal:
+        return refusal.numbers
 
 
 def school(k):
@@ -23,3 +28,31 @@ def school(k):
     if k >= len(texts):
         return [-1]
     return [0] + [ord(sign) for sign in texts[k]]
+
+
+def run(v, most, make, marks, text):
+    """0, how many steps the method takes on the number v, and the number at the end; else the refusal."""
+    try:
+        check_size(text)
+        rods = read_make(make)
+        lines = read_lines(text)
+        check_run(most, marks)
+        if v >= find_span(rods):
+            raise LargeValue()
+        frame = NumberFrame(rods, v)
+        steps = Run(lines, marks, frame).go_through(most)
+        return [0, steps, frame.value]
+    except Refusal as refusal:
+        return refusal.numbers
+
+
+def check_size(text):
+    """Looks whether the text has as many bytes as it may have."""
+    if len(text) > MOST_BYTES:
+        raise LongText()
+
+
+def check_run(most, marks):
+    """Looks whether the marks and most are such as they may be."""
+    if len(marks) != MARK_COUNT or max(marks) > MOST_MARK or most > MOST_STEPS:
+        raise NotAllowed()

@@ -1,8 +1,6 @@
 """Goes through a method's bytes from the left, as far as they are what is wanted."""
 
-from abacusways.faults import Fault
-
-METHOD_RULE = 11
+from abacusways.faults import NO_METHOD, Fault
 
 
 class Reader:
@@ -26,7 +24,7 @@ class Reader:
             if self.shows(sign):
                 self.place += 1
                 return sign
-        raise Fault(METHOD_RULE, self.place)
+        raise Fault(NO_METHOD, self.place)
 
     def read_word(self, words):
         """Reads one of these words, the longest that stands here, and gives back which."""
@@ -36,7 +34,7 @@ class Reader:
             word += self.read_sign(signs)
             signs = signs_behind(word, words)
         if word not in words:
-            raise Fault(METHOD_RULE, self.place)
+            raise Fault(NO_METHOD, self.place)
         return word
 
 
