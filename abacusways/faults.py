@@ -4,12 +4,17 @@ MAKE_COUNT = 1
 ROD_NUMBERS = 2
 ROD_WORTH = 3
 ROD_GAP = 4
+NO_STANDING = 5
+HAND_COUNT = 6
+NO_STROKE = 7
+NO_RULE = 9
 NO_METHOD = 11
 
 NO_ROD = 1
 NO_ROOM = 2
 OUT_OF_BOUNDS = 3
 FAILED = 4
+NOT_WORKED = 5
 
 
 class Refusal(ValueError):
@@ -46,6 +51,13 @@ class LargeValue(Refusal):
 
     def __init__(self):
         Refusal.__init__(self, [-4])
+
+
+class NotInForm(Refusal):
+    """The standing isn't in form."""
+
+    def __init__(self):
+        Refusal.__init__(self, [-3])
 
 
 class FaultyLine(Refusal):

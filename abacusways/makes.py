@@ -12,14 +12,17 @@ MOST_ROD_WORTH = 255
 
 
 class Rod:
-    """A rod's ratio, its place, the beads and their worth deck by deck, and its digits' forms."""
+    """A rod's ratio, its place, the beads and their worth deck by deck, and of each form its digit."""
 
     def __init__(self, told, place):
         self.ratio = told[0]
         self.place = place
         self.beads = told[1::2]
         self.worths = told[2::2]
-        self.forms = find_forms(self.ratio, self.beads, self.worths)
+        self.digits = {}
+        forms = find_forms(self.ratio, self.beads, self.worths)
+        for digit in forms:
+            self.digits[forms[digit]] = digit
 
 
 def read_make(make):
@@ -32,7 +35,7 @@ def read_make(make):
         told = make[ROD_SIZE * number:ROD_SIZE * (number + 1)]
         check_rod(told, number)
         rod = Rod(told, place)
-        if len(rod.forms) < rod.ratio:
+        if len(rod.digits) < rod.ratio:
             raise Fault(ROD_GAP, number)
         rods.append(rod)
         place *= rod.ratio

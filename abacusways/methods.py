@@ -1,10 +1,14 @@
 """The calls that others make."""
 
-from abacusways.faults import LargeValue, LongText, NotAllowed, Refusal
+from abacusways.beads import BeadFrame
+from abacusways.books import read_book
+from abacusways.faults import LargeValue, LongText, NotAllowed, NotInForm, Refusal
 from abacusways.frames import NumberFrame
 from abacusways.grammar import read_lines
+from abacusways.hands import read_hand
 from abacusways.makes import find_span, read_make
 from abacusways.runs import Run
+from abacusways.standings import check_standing, is_in_form
 from abacusways.texts import DIVIDE, PLUS, ROOT, TIMES
 
 MOST_BYTES = 4096
@@ -42,6 +46,30 @@ def run(v, most, make, marks, text):
         frame = NumberFrame(rods, v)
         steps = Run(lines, marks, frame).go_through(most)
         return [0, steps, frame.value]
+    except Refusal as refusal:
+        return refusal.numbers
+
+
+def work(h, most, make, hand, standing, marks, text, book):
+    """0, how many steps, acts, what they cost, and the standing at the end; else the refusal.
+
+    The method is worked on the standing, the hand being at rod h, by the book.
+    """
+    try:
+        check_size(text)
+        rods = read_make(make)
+        worker = read_hand(hand)
+        check_standing(standing, rods)
+        rules = read_book(book)
+        lines = read_lines(text)
+        check_run(most, marks)
+        if h >= len(rods):
+            raise NotAllowed()
+        if not is_in_form(standing, rods):
+            raise NotInForm()
+        frame = BeadFrame(rods, standing, worker, h, rules)
+        steps = Run(lines, marks, frame).go_through(most)
+        return [0, steps, frame.acts, frame.cost] + frame.standing
     except Refusal as refusal:
         return refusal.numbers
 

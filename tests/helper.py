@@ -2,10 +2,13 @@
 
 The runs are followed here by calls within one another, over the blocks of the text and over what
 Python's own reader makes of an E, with the frame kept digit by digit; so nothing of how the package
-goes about it is taken over.
+goes about it is taken over. Frames of beads are followed likewise, and books are made for them.
 """
 
 import ast
+import functools
+import itertools
+import math
 import operator
 
 MOST = 16777216
@@ -275,3 +278,184 @@ class Chance:
         if kind == 5:
             return f"({self.small(depth + 1)})"
         return f"{self.small(depth + 1)}{self.random.choice('+-*')}{self.small(depth + 1)}"
+
+
+@functools.lru_cache(maxsize=None)
+def forms_of(rod):
+    """Of each digit of the rod (its seven numbers) its form, chosen from all ways to push it."""
+    forms = {}
+    for way in itertools.product(*(range(beads + 1) for beads in rod[1::2])):
+        count = sum(pushed * worth for pushed, worth in zip(way, rod[2::2]))
+        if count < rod[0]:
+            forms.setdefault(count, []).append(way)
+    return {count: min(ways, key=lambda way: (sum(way), -way[0], -way[1])) for count, ways in forms.items()}
+
+
+def rods_of(make):
+    return [tuple(make[place:place + 7]) for place in range(0, len(make), 7)]
+
+
+def standing_of(digits, make):
+    """The standing that shows these digits in form."""
+    return [pushed for digit, rod in zip(digits, rods_of(make)) for pushed in forms_of(rod)[digit]]
+
+
+def standing_of_value(value, make):
+    return standing_of(digits_of(value, ratios_of(make)), make)
+
+
+class CannotBe(Exception):
+    """An act that can't be done."""
+
+
+def act(rod, pushed, hand, step):
+    """How the rod's beads stand behind an act that finds them pushed so."""
+    number, n, k = step
+    stroke = hand[1:][7 * number:7 * number + 7]
+    if not stroke:
+        raise CannotBe
+    pushed = list(pushed)
+    for (deck, direction, most), count in ((stroke[:3], n), (stroke[3:6], k)):
+        if direction == 0 and count == 0:
+            continue
+        side = rod[1 + 2 * deck] - pushed[deck] if direction == 1 else pushed[deck]
+        if direction == 0 or count not in range(1, most + 1) or count > side:
+            raise CannotBe
+        pushed[deck] += count if direction == 1 else -count
+    return pushed
+
+
+class BeadFrame:
+    """A frame of beads, each rule and each carry in it being a call of its own."""
+
+    def __init__(self, make, standing, hand, book, at):
+        self.rods = rods_of(make)
+        self.ratios = ratios_of(make)
+        self.pushed = [standing[place:place + 3] for place in range(0, len(standing), 3)]
+        self.hand = hand
+        self.book = {tuple(row[:3]): row[3:] for row in book}
+        self.at = at
+        self.acts = 0
+        self.cost = 0
+        self.limit = 65536
+
+    def look(self, rod):
+        if rod not in range(len(self.rods)):
+            raise Kind(1)
+        for digit, form in forms_of(self.rods[rod]).items():
+            if list(form) == self.pushed[rod]:
+                return digit
+        raise Kind(5)
+
+    def change(self, word, amount, rod):
+        if rod not in range(len(self.rods)):
+            raise Kind(1)
+        number = amount * math.prod(self.ratios[:rod])
+        if number >= math.prod(self.ratios):
+            raise Kind(2)
+        self.left = self.limit
+        for place, digit in reversed(list(enumerate(digits_of(number, self.ratios)))):
+            if digit > 0:
+                self.rule(int(word == "take"), digit, place)
+
+    def rule(self, op, d, rod):
+        x = self.look(rod)
+        steps = self.book.get((op, d, x), [])
+        for place in range(0, len(steps), 3):
+            if self.left == 0:
+                raise Kind(5)
+            self.left -= 1
+            if any(steps[place:place + 3]):
+                self.act(rod, steps[place:place + 3])
+            elif rod == len(self.rods) - 1:
+                raise Kind(2)
+            else:
+                self.rule(op, 1, rod + 1)
+
+    def act(self, rod, step):
+        try:
+            self.pushed[rod] = act(self.rods[rod], self.pushed[rod], self.hand, step)
+        except CannotBe:
+            raise Kind(5) from None
+        self.acts += 1
+        self.cost += self.hand[1:][7 * step[0] + 6] + self.hand[0] * abs(rod - self.at)
+        self.at = rod
+
+    def standing(self):
+        return [count for rod in self.pushed for count in rod]
+
+
+def follow_work(h, most, make, hand, standing, marks, text, book):
+    """What work is to answer if it refuses nothing ahead of the run."""
+    frame = BeadFrame(make, standing, hand, book, h)
+    answer = Follower(text, marks, most, frame).answer()
+    return answer + [frame.acts, frame.cost] + frame.standing() if answer[0] == 0 else answer
+
+
+def single_strokes(moving, cost=1, most=15):
+    """A hand that has for each deck a stroke to the beam and one away."""
+    strokes = [[deck, direction, most, 0, 0, 0, cost + 2 * deck + direction - 1]
+               for deck in range(3) for direction in (1, 2)]
+    return [moving] + [number for stroke in strokes for number in stroke]
+
+
+def paired_strokes(moving, cost=1):
+    """A hand that has besides them strokes for two decks at once, in all directions."""
+    strokes = [[deck, direction, 4, other, turn, 2, cost + 7 * deck + other]
+               for deck, other in itertools.permutations(range(3), 2)
+               for direction, turn in itertools.product((1, 2), repeat=2)]
+    return single_strokes(moving, cost, 3) + [number for stroke in strokes for number in stroke]
+
+
+def acts_between(rod, hand, pushed, wanted, chance):
+    """Acts by chance that lead on the rod from the one way to push it to the other, each coming nearer to it."""
+    steps = []
+    pushed = list(pushed)
+    while pushed != list(wanted):
+        gaps = [after - before for before, after in zip(pushed, wanted)]
+        found = []
+        for number in range(len(hand) // 7):
+            deck, direction, most, other, turn, second, cost = hand[1 + 7 * number:8 + 7 * number]
+            n = min(most, gaps[deck] if direction == 1 else -gaps[deck])
+            k = min(second, gaps[other] if turn == 1 else -gaps[other])
+            if n > 0 and (k > 0 or turn == 0):
+                found += [[number, chance.randint((n + 1) // 2, n), chance.randint(1, k) if turn else 0]]
+        steps.append(chance.choice(found))
+        pushed = act(rod, pushed, hand, steps[-1])
+    return steps
+
+
+def right_row(rod, hand, op, d, x, chance):
+    """A rule for op, d, x that is right on the rod, as a row."""
+    total = x - d if op else x + d
+    forms = forms_of(rod)
+    steps = acts_between(rod, hand, forms[x], forms[total % rod[0]], chance)
+    if total % rod[0] != total:
+        steps.insert(chance.randrange(len(steps) + 1), [0, 0, 0])
+    assert len(steps) <= 10
+    return [op, d, x] + [number for step in steps for number in step]
+
+
+def right_book(rod, hand, chance):
+    """A book that is right on the rod, its rows in any order."""
+    digits = range(tuple(rod)[0])
+    rows = [right_row(tuple(rod), hand, op, d, x, chance) for op in (0, 1) for d in digits[1:] for x in digits]
+    chance.shuffle(rows)
+    return rows
+
+
+def is_right(row, rod, hand):
+    """Whether the row's rule is right on the rod."""
+    op, d, x = row[:3]
+    forms = forms_of(tuple(rod))
+    pushed, carries = list(forms[x]), 0
+    for place in range(3, len(row), 3):
+        if any(row[place:place + 3]):
+            try:
+                pushed = act(rod, pushed, hand, row[place:place + 3])
+            except CannotBe:
+                return False
+        else:
+            carries += 1
+    total = x - d if op else x + d
+    return pushed == list(forms[total % rod[0]]) and carries == (total not in range(rod[0]))

@@ -189,8 +189,8 @@ class SeveralFaults(MakeTest):
         chance = random.Random(8)
         seen = set()
         for count in range(4000):
-            rod = chance.choice((TEN, CHINESE, SOVIET, FIVE, TWELVE, TWENTY, [chance.randrange(2, 21), 3, 1, 2, 4, 2, 12]))
-            rod = list(rod)
+            mixed = [chance.randrange(2, 21), 3, 1, 2, 4, 2, 12]
+            rod = list(chance.choice((TEN, CHINESE, SOVIET, FIVE, TWELVE, TWENTY, mixed)))
             for change in range(chance.randrange(3)):
                 rod[chance.randrange(7)] = chance.choice((0, 1, 2, 3, 5, 10, 15, 16, 20, 21, 63, 64))
             rule = told_rule(rod)

@@ -409,7 +409,8 @@ class Tests(RunTest):
 class Most(RunTest):
     def test_0_with_no_line_and_with_one(self):
         self.assertEqual(ask("", most=0, v=7), [0, 0, 7])
-        for line in ("add 0 at 0\n", "take 0 at 0\n", "set a 0\n", "stop\n", "fail\n", "if 0=1\nend\n", "while 0=1\nend\n"):
+        for line in ("add 0 at 0\n", "take 0 at 0\n", "set a 0\n", "stop\n", "fail\n", "if 0=1\nend\n",
+                     "while 0=1\nend\n"):
             self.assertEqual(ask(line, most=0), [-8])
 
     def test_just_the_steps_that_are_needed_and_one_fewer(self):
